@@ -1,44 +1,18 @@
 package live_test
 
 import (
-	"math"
 	"slices"
-	"strconv"
 	"strings"
 	"testing"
 
 	"conch/api"
 	"conch/gram"
 	"conch/live"
+	"conch/sample"
 )
 
-// grammar puts a grammar together: names parted by blanks, and rules such as "s : A t".
-func grammar(terms, nons, start string, rules ...string) api.Gram {
-	g := api.Gram{Terms: strings.Fields(terms), Nons: strings.Fields(nons)}
-	g.Start = gram.Find(g, start)
-	for _, text := range rules {
-		words := strings.Fields(text)
-		r := api.Rule{Left: gram.Find(g, words[0])}
-		for _, name := range words[2:] {
-			r.Right = append(r.Right, gram.Find(g, name))
-		}
-		g.Rules = append(g.Rules, r)
-	}
-	return g
-}
-
-// sized returns a grammar with that many terminals and nonterminals and without rules.
-func sized(terms, nons int) api.Gram {
-	var g api.Gram
-	for i := range terms {
-		g.Terms = append(g.Terms, "T"+strconv.Itoa(i))
-	}
-	for i := range nons {
-		g.Nons = append(g.Nons, "n"+strconv.Itoa(i))
-	}
-	g.Start = terms + 1
-	return g
-}
+// Short names: almost every test makes grammars.
+var grammar, sized = sample.Grammar, sample.Sized
 
 // named returns the names of symbols, parted by blanks.
 func named(g api.Gram, symbols []int) string {
@@ -215,55 +189,10 @@ func nothing(t *testing.T, g api.Gram, want api.Errno) {
 	}
 }
 
-// with returns a grammar with useless symbols after a change.
-func with(change func(g *api.Gram)) api.Gram {
-	g := grammar("A B", "s t u", "s", "s : A", "s : t", "t : t", "u :")
-	change(&g)
-	return g
-}
-
-// more returns that grammar with another rule.
-func more(left int, right ...int) api.Gram {
-	return with(func(g *api.Gram) { g.Rules = append(g.Rules, api.Rule{Left: left, Right: right}) })
-}
-
-// started returns that grammar with another Start.
-func started(s int) api.Gram {
-	return with(func(g *api.Gram) { g.Start = s })
-}
-
 // P9.1: grammars that are not valid, by each condition of chapter 6. Useless symbols do not matter then.
 func TestInvalid(t *testing.T) {
-	long := strings.Repeat("a", api.MaxName+1)
-	for _, x := range []struct {
-		e    api.Errno
-		list []api.Gram
-	}{
-		{api.ErrMany, []api.Gram{
-			sized(api.MaxTerms+1, 1), sized(0, api.MaxNons+1), sized(5000, 5000), more(3, slices.Repeat([]int{1}, api.MaxRight+1)...),
-			with(func(g *api.Gram) { g.Rules = slices.Repeat(g.Rules, api.MaxRules) }),
-		}},
-		{api.ErrForm, []api.Gram{
-			with(func(g *api.Gram) { g.Terms[1] = "" }), with(func(g *api.Gram) { g.Terms[1] = "''" }), with(func(g *api.Gram) { g.Terms[1] = long }),
-			with(func(g *api.Gram) { g.Nons[2] = "" }), with(func(g *api.Gram) { g.Nons[2] = "'u'" }), with(func(g *api.Gram) { g.Nons[2] = long }), with(func(g *api.Gram) { g.Nons[2] = "$" }),
-		}},
-		{api.ErrTwice, []api.Gram{
-			with(func(g *api.Gram) { g.Terms[1] = "A" }), with(func(g *api.Gram) { g.Nons[2] = "s" }), with(func(g *api.Gram) { g.Nons[2] = "B" }), more(3, 1), more(5),
-		}},
-		{api.ErrArg, []api.Gram{
-			{}, {Start: 1}, grammar("A", "", "A"), started(0), started(1), started(2), started(6), started(-1), started(math.MinInt), started(math.MaxInt),
-			more(0), more(1), more(6), more(-1), more(math.MinInt), more(math.MaxInt), more(3, 0), more(3, 6), more(3, 1, -1), more(4, math.MinInt), more(5, math.MaxInt),
-		}},
-		{api.ErrNone, []api.Gram{
-			grammar("", "s", "s"), grammar("A", "s t", "s", "s : A"), with(func(g *api.Gram) { g.Rules = g.Rules[:3] }), sized(api.MaxTerms, api.MaxNons),
-		}},
-	} {
-		for _, g := range x.list {
-			if e := gram.Check(g); e != x.e {
-				t.Errorf("the grammar is not as it should be: %d, want %d", e, x.e)
-			}
-			nothing(t, g, x.e)
-		}
+	for _, x := range sample.Invalid() {
+		nothing(t, x.G, x.E)
 	}
 }
 

@@ -9,6 +9,7 @@ import (
 	"conch/api"
 	"conch/gram"
 	"conch/live"
+	"conch/sample"
 )
 
 // The model is the chapter once more by other means: productive symbols are found by looking for a tree on whose paths no
@@ -195,14 +196,7 @@ func TestSmallGrammars(t *testing.T) {
 		{"A", "s t", "s : | s : A | s : t | s : t s | t : | t : A | t : s | t : A t | t : t t"},
 		{"A B C", "s t u", "s : A | s : t u | s : B s | t : B | t : t | t : u t | t : C s | u : | u : u u | u : A u B | u : s"},
 	} {
-		pool := strings.Split(x.rules, " | ")
-		for bits := range 1 << len(pool) {
-			var rules []string
-			for i, r := range pool {
-				if bits>>i&1 != 0 {
-					rules = append(rules, r)
-				}
-			}
+		for rules := range sample.Subsets(x.rules) {
 			for range 2 {
 				for _, start := range strings.Fields(x.terms + " " + x.nons + " none") {
 					a := agree(t, grammar(x.terms, x.nons, start, rules...))
@@ -219,30 +213,10 @@ func TestSmallGrammars(t *testing.T) {
 	}
 }
 
-// P9.1, P9.2: grammars of all sizes that a simple rule strews.
+// P9.1, P9.2: strewn grammars of all sizes.
 func TestStrewnGrammars(t *testing.T) {
-	state := uint32(9)
-	next := func(n int) int {
-		state = state*1664525 + 1013904223
-		return int(state>>8) % n
-	}
 	counts := map[int]int{}
-	for range 4000 {
-		g := sized(next(7), 1+next(7))
-		for i := range g.Nons {
-			for range 1 + next(2) {
-				r := api.Rule{Left: len(g.Terms) + 1 + i}
-				for range next(4) {
-					r.Right = append(r.Right, 1+next(gram.Top(g)))
-				}
-				g.Rules = append(g.Rules, r)
-			}
-		}
-		for i := range g.Rules {
-			k := next(len(g.Rules))
-			g.Rules[i], g.Rules[k] = g.Rules[k], g.Rules[i]
-		}
-		g.Start = len(g.Terms) + 1 + next(len(g.Nons))
+	for g := range sample.Strewn(4000, sample.Size{Terms: 6, Nons: 7, Rules: 2, Right: 3}) {
 		if a := agree(t, g); a.ok {
 			counts[gram.Top(g)-gram.Top(a.trimmed)]++
 		}

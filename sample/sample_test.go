@@ -1,0 +1,89 @@
+package sample_test
+
+import (
+	"slices"
+	"strings"
+	"testing"
+
+	"conch/api"
+	"conch/gram"
+	"conch/sample"
+)
+
+func TestGrammar(t *testing.T) {
+	g := sample.Grammar("A '+'", "s t", "t", "t : s '+'", "s :", "s : A")
+	want := api.Gram{Terms: []string{"A", "'+'"}, Nons: []string{"s", "t"}, Start: 4, Rules: []api.Rule{{Left: 4, Right: []int{3, 2}}, {Left: 3}, {Left: 3, Right: []int{1}}}}
+	if !gram.Same(g, want) || gram.Check(g) != api.OK {
+		t.Errorf("the grammar is %v", g)
+	}
+	if e := gram.Check(sample.Grammar("A", "s", "s", "s : A B")); e != api.ErrArg {
+		t.Errorf("an unknown name: %d", e)
+	}
+}
+
+func TestSized(t *testing.T) {
+	g := sample.Sized(3, 2)
+	if gram.Top(g) != 5 || gram.Name(g, 3) != "T2" || gram.Name(g, g.Start) != "n0" || len(g.Rules) != 0 {
+		t.Errorf("the grammar is %v", g)
+	}
+}
+
+func TestSubsets(t *testing.T) {
+	var list []string
+	for rules := range sample.Subsets("s : | s : A | t : s") {
+		list = append(list, strings.Join(rules, ","))
+	}
+	want := []string{"", "s :", "s : A", "s :,s : A", "t : s", "s :,t : s", "s : A,t : s", "s :,s : A,t : s"}
+	if !slices.Equal(list, want) {
+		t.Errorf("the subsets are %q, want %q", list, want)
+	}
+}
+
+// Strewn grammars stay within their size, reach it, and are the same ones each time.
+func TestStrewn(t *testing.T) {
+	var reached sample.Size
+	var again []api.Gram
+	most := sample.Size{Terms: 3, Nons: 2, Rules: 3, Right: 4}
+	for g := range sample.Strewn(500, most) {
+		again = append(again, g)
+		reached.Terms = max(reached.Terms, len(g.Terms))
+		reached.Nons = max(reached.Nons, len(g.Nons))
+		for i := range g.Nons {
+			reached.Rules = max(reached.Rules, len(gram.Of(g, len(g.Terms)+1+i)))
+		}
+		for _, r := range g.Rules {
+			reached.Right = max(reached.Right, len(r.Right))
+		}
+		if e := gram.Check(g); e != api.OK && e != api.ErrTwice {
+			t.Errorf("%v is not valid: %d", g, e)
+		}
+	}
+	if reached != most || len(again) != 500 {
+		t.Errorf("%d grammars up to %v", len(again), reached)
+	}
+	for g := range sample.Strewn(500, most) {
+		if !gram.Same(g, again[0]) {
+			t.Errorf("%v was %v", g, again[0])
+		}
+		again = again[1:]
+	}
+}
+
+// Each of the invalid grammars has its error, and each error of chapter 6 has some of them.
+func TestInvalid(t *testing.T) {
+	counts := map[api.Errno]int{}
+	for _, x := range sample.Invalid() {
+		counts[x.E]++
+		if e := gram.Check(x.G); e != x.E {
+			t.Errorf("%.200v: %d, want %d", x.G, e, x.E)
+		}
+	}
+	for _, e := range []api.Errno{api.ErrMany, api.ErrForm, api.ErrTwice, api.ErrArg, api.ErrNone} {
+		if counts[e] < 4 {
+			t.Errorf("%d grammars with the error %d", counts[e], e)
+		}
+	}
+	if counts[api.OK] != 0 || gram.Check(sample.Valid()) != api.OK {
+		t.Error("the valid grammar")
+	}
+}
