@@ -295,16 +295,10 @@ func TestSmallGrammars(t *testing.T) {
 		{4, "A B", "s t u", "s : t u | s : s A | s : B | t : | t : u | t : t A | u : s | u : B | u :"},
 		{0, "A B C", "s t u", "s : A | s : t u | s : B s | s : u u | t : | t : t | t : u t C | t : C s | u : | u : u u | u : A t B | u : s"},
 	} {
-		for rules := range sample.Subsets(x.rules) {
-			for _, start := range strings.Fields(x.nons) {
-				g := grammar(x.terms, x.nons, start, rules...)
-				if gram.Check(g) != api.OK {
-					continue
-				}
-				kinds[describe(g, agree(t, g))]++
-				if x.most > 0 {
-					holds(t, g, first.Of(g), derived(g, x.most))
-				}
+		for g := range sample.Small(x.terms, x.nons, x.rules) {
+			kinds[describe(g, agree(t, g))]++
+			if x.most > 0 {
+				holds(t, g, first.Of(g), derived(g, x.most))
 			}
 		}
 	}

@@ -32,7 +32,7 @@ func named(g api.Gram, text string) api.Item {
 	for i := range len(g.Rules) + 1 {
 		r, _ := gram.Rule(g, i)
 		for dot := range len(r.Right) + 1 {
-			if show(g, api.Item{Rule: i, Dot: dot}) == text {
+			if sample.Item(g, api.Item{Rule: i, Dot: dot}) == text {
 				return api.Item{Rule: i, Dot: dot}
 			}
 		}
@@ -40,28 +40,11 @@ func named(g api.Gram, text string) api.Item {
 	panic(text + " is no item")
 }
 
-// show renders a valid item.
-func show(g api.Gram, x api.Item) string {
-	r, ok := gram.Rule(g, x.Rule)
-	if !ok || x.Dot < 0 || x.Dot > len(r.Right) {
-		return "no item"
-	}
-	words := []string{gram.Name(g, r.Left), ":"}
-	for _, s := range r.Right[:x.Dot] {
-		words = append(words, gram.Name(g, s))
-	}
-	words = append(words, ".")
-	for _, s := range r.Right[x.Dot:] {
-		words = append(words, gram.Name(g, s))
-	}
-	return strings.Join(words, " ")
-}
-
 // shown renders items.
 func shown(g api.Gram, l []api.Item) string {
 	var texts []string
 	for _, x := range l {
-		texts = append(texts, show(g, x))
+		texts = append(texts, sample.Item(g, x))
 	}
 	return strings.Join(texts, " | ")
 }

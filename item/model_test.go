@@ -283,15 +283,9 @@ func TestSmallGrammars(t *testing.T) {
 		{"A", "s t", "s : | s : A | s : t | s : t s | t : | t : A | t : s | t : A t | t : t t"},
 		{"A B", "s t u", "s : t u | s : s A | s : B | t : | t : u | t : t A | u : s | u : B | u :"},
 	} {
-		for rules := range sample.Subsets(x.rules) {
-			for s := range len(x.nons)/2 + 1 {
-				g := grammar(x.terms, x.nons, x.nons[2*s:2*s+1], rules...)
-				if gram.Check(g) != api.OK {
-					continue
-				}
-				grammars++
-				lists += follow(t, g)
-			}
+		for g := range sample.Small(x.terms, x.nons, x.rules) {
+			grammars++
+			lists += follow(t, g)
 		}
 	}
 	if grammars < 500 || lists < 4*grammars {

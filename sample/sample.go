@@ -29,6 +29,19 @@ func Grammar(terms, nons, start string, rules ...string) api.Gram {
 	return g
 }
 
+// Item renders an item, such as "s : A . t".
+func Item(g api.Gram, x api.Item) string {
+	r, ok := gram.Rule(g, x.Rule)
+	if !ok || x.Dot < 0 || x.Dot > len(r.Right) {
+		return "no item"
+	}
+	words := []string{gram.Name(g, r.Left), ":"}
+	for _, s := range r.Right {
+		words = append(words, gram.Name(g, s))
+	}
+	return strings.Join(slices.Insert(words, 2+x.Dot, "."), " ")
+}
+
 // Sized returns a grammar with that many terminals and nonterminals and without
 // rules.
 func Sized(terms, nons int) api.Gram {
@@ -56,6 +69,21 @@ func Subsets(rules string) iter.Seq[[]string] {
 			}
 			if !yield(subset) {
 				return
+			}
+		}
+	}
+}
+
+// Small yields the valid grammars that have a part of some rules, which are
+// parted by " | ", and any nonterminal as Start.
+func Small(terms, nons, rules string) iter.Seq[api.Gram] {
+	return func(yield func(api.Gram) bool) {
+		for subset := range Subsets(rules) {
+			for _, start := range strings.Fields(nons) {
+				g := Grammar(terms, nons, start, subset...)
+				if gram.Check(g) == api.OK && !yield(g) {
+					return
+				}
 			}
 		}
 	}

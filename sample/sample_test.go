@@ -2,6 +2,7 @@ package sample_test
 
 import (
 	"slices"
+	"strconv"
 	"strings"
 	"testing"
 
@@ -25,6 +26,30 @@ func TestSized(t *testing.T) {
 	g := sample.Sized(3, 2)
 	if gram.Top(g) != 5 || gram.Name(g, 3) != "T2" || gram.Name(g, g.Start) != "n0" || len(g.Rules) != 0 {
 		t.Errorf("the grammar is %v", g)
+	}
+}
+
+func TestItem(t *testing.T) {
+	g := sample.Grammar("A", "s t", "t", "s : A t", "t :")
+	for x, want := range map[api.Item]string{{}: "s : . A t", {Dot: 1}: "s : A . t", {Dot: 2}: "s : A t .", {Rule: 1}: "t : .", {Rule: 2, Dot: 1}: "$ : t .",
+		{Dot: 3}: "no item", {Dot: -1}: "no item", {Rule: 3}: "no item", {Rule: -1}: "no item"} {
+		if got := sample.Item(g, x); got != want {
+			t.Errorf("%v is %q, want %q", x, got, want)
+		}
+	}
+}
+
+// Grammars without a rule for each nonterminal are left out.
+func TestSmall(t *testing.T) {
+	var list []string
+	for g := range sample.Small("A", "s t", "s : | s : A | t : s") {
+		list = append(list, gram.Name(g, g.Start)+strconv.Itoa(len(g.Rules)))
+	}
+	if want := []string{"s2", "t2", "s2", "t2", "s3", "t3"}; !slices.Equal(list, want) {
+		t.Errorf("the grammars are %q, want %q", list, want)
+	}
+	for range sample.Small("A", "s t", "s : | s : A | t : s") {
+		break
 	}
 }
 
