@@ -1,6 +1,7 @@
 package auto_test
 
 import (
+	"iter"
 	"math"
 	"slices"
 	"strconv"
@@ -279,15 +280,96 @@ func TestGoto(t *testing.T) {
 	}
 }
 
-// P1, P13.1: a target is returned as it is, and no way goes on from one that is not a state.
+// P1, P6, P13.1: Goto returns a target as it is, while Walk is -1 for one that is not a state, wherever on the way it stands.
 func TestTargets(t *testing.T) {
 	for _, n := range append([]int{0, 1, 2, 3}, extremes...) {
-		l := []api.State{{Trans: []api.Trans{{Sym: 1, To: n}}}}
-		if to := auto.Goto(l, 0, 1); to != n {
-			t.Errorf("Goto is %d, want %d", to, n)
+		// Symbol 1 leads to n, and its second transition to a state does not count; 2 changes between the states; 3 is missing.
+		l := []api.State{
+			{Trans: []api.Trans{{Sym: 1, To: n}, {Sym: 1, To: 1}, {Sym: 2, To: 1}}},
+			{Trans: []api.Trans{{Sym: 2, To: 0}, {Sym: 1, To: n}, {Sym: 1, To: 0}}},
 		}
-		if at := auto.Walk(l, 0, []int{1, 1}); n != 0 && at != -1 {
-			t.Errorf("behind %d Walk is %d", n, at)
+		want := -1
+		if n == 0 || n == 1 {
+			want = n
+		}
+		for i := range l {
+			if to := auto.Goto(l, i, 1); to != n {
+				t.Errorf("Goto(%d, 1) is %d, want %d", i, to, n)
+			}
+			for _, way := range [][]int{{1}, {2, 1}, {2, 2, 1}, {1, 1}, {1, 1, 1}, {2, 1, 1}, {1, 2, 1}, {1, 2, 2}, {1, 2, 2, 1}} {
+				if at := auto.Walk(l, i, way); at != want {
+					t.Errorf("symbol 1 leads to %d: Walk(%d, %v) is %d, want %d", n, i, way, at, want)
+				}
+			}
+			for _, way := range [][]int{{3}, {1, 3}, {3, 1}, {2, 3, 1}, {2, 1, 3}} {
+				if at := auto.Walk(l, i, way); at != -1 {
+					t.Errorf("symbol 1 leads to %d: Walk(%d, %v) is %d", n, i, way, at)
+				}
+			}
+			if at := auto.Walk(l, i, nil); at != i {
+				t.Errorf("symbol 1 leads to %d: Walk(%d) is %d", n, i, at)
+			}
+		}
+	}
+}
+
+// P6, P13.1: all short ways through one to three states with all targets, among them numbers just below and just behind the states.
+func TestAllTargets(t *testing.T) {
+	walks, reached := 0, 0
+	for n := 1; n <= 3; n++ {
+		for targets := range tuples(2*n, n+3) {
+			l := make([]api.State, n)
+			for k, to := range targets {
+				l[k/2].Trans = append(l[k/2].Trans, api.Trans{Sym: k % 2, To: to - 2})
+			}
+			for length := range 4 {
+				for way := range tuples(length, 2) {
+					for i := -2; i < n+2; i++ {
+						want := arrives(targets, n, i, way)
+						if at := auto.Walk(l, i, way); at != want {
+							t.Fatalf("%v: Walk(%d, %v) is %d, want %d", l, i, way, at, want)
+						}
+						walks++
+						reached += min(want, 0) + 1
+					}
+				}
+			}
+		}
+	}
+	if walks < 100000 || reached < 10000 || reached == walks {
+		t.Errorf("%d ways, %d of them to states", walks, reached)
+	}
+}
+
+// arrives goes a way of the symbols 0 and 1 through n states whose targets, two for each state, are stored with 2 added; whatever
+// is not a state leads to -1 at once.
+func arrives(targets []int, n, i int, way []int) int {
+	switch {
+	case i < 0 || i >= n:
+		return -1
+	case len(way) == 0:
+		return i
+	}
+	return arrives(targets, n, targets[2*i+way[0]]-2, way[1:])
+}
+
+// tuples yields all lists of that length of the numbers below top.
+func tuples(length, top int) iter.Seq[[]int] {
+	return func(yield func([]int) bool) {
+		list := make([]int, length)
+		for {
+			if !yield(list) {
+				return
+			}
+			k := 0
+			for k < length && list[k] == top-1 {
+				list[k] = 0
+				k++
+			}
+			if k == length {
+				return
+			}
+			list[k]++
 		}
 	}
 }
