@@ -14,8 +14,8 @@ import (
 	"conch/sample"
 )
 
-// Short names: almost every test makes grammars.
-var grammar, sized = sample.Grammar, sample.Sized
+// A short name: almost every test makes grammars.
+var grammar = sample.Grammar
 
 // shown renders a state, such as "s : A . s | s : A s . ; A 1, s 2".
 func shown(g api.Gram, x api.State) string {

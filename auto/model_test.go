@@ -328,23 +328,10 @@ func TestStrewnGrammars(t *testing.T) {
 	}
 }
 
-// sharp returns a grammar whose automaton has that many states: 0, the one after Start, and one for each beginning of a rule.
-func sharp(states int) api.Gram {
-	g := sized(api.MaxTerms, 1)
-	for i, left := 0, states-2; left > 0; i++ {
-		first, second := 1+i%api.MaxTerms, 1+i/api.MaxTerms
-		old := min(i/api.MaxTerms, 1)
-		list := append([]int{first}, slices.Repeat([]int{second}, api.MaxRight-1)...)[:min(api.MaxRight, left+old)]
-		g.Rules = append(g.Rules, api.Rule{Left: g.Start, Right: list})
-		left -= len(list) - old
-	}
-	return g
-}
-
 // P13.1: just so many states, and nearly so.
 func TestLimit(t *testing.T) {
 	for _, n := range []int{3, 4, 100, 1000, api.MaxStates - 1, api.MaxStates} {
-		g := sharp(n)
+		g := sample.Sharp(n)
 		l, e := auto.Build(g)
 		if e != api.OK || len(l) != n {
 			t.Fatalf("%d states and error %d, want %d", len(l), e, n)
@@ -361,32 +348,16 @@ func TestLimit(t *testing.T) {
 		literal(t, g, l, 19)
 	}
 	for _, n := range []int{api.MaxStates + 1, api.MaxStates + 2, api.MaxStates + 200} {
-		if l, e := auto.Build(sharp(n)); len(l) != 0 || e != api.ErrMany {
+		if l, e := auto.Build(sample.Sharp(n)); len(l) != 0 || e != api.ErrMany {
 			t.Errorf("%d states: %d with the error %d", n, len(l), e)
 		}
 	}
 }
 
-// remembering returns a grammar whose states tell which terminals have occurred and which one was the last: their number grows
-// with the powers of 2.
-func remembering(n int) api.Gram {
-	g := sized(n, n+1)
-	for i := range n {
-		non := g.Start + 1 + i
-		g.Rules = append(g.Rules, api.Rule{Left: g.Start, Right: []int{non}}, api.Rule{Left: non, Right: []int{1 + i}})
-		for k := range n {
-			if k != i {
-				g.Rules = append(g.Rules, api.Rule{Left: non, Right: []int{1 + k, non}})
-			}
-		}
-	}
-	return g
-}
-
 // P1, P13.1: grammars whose states would be too many to be made at all.
 func TestTooMany(t *testing.T) {
 	for n := 1; n <= 7; n++ {
-		g := remembering(n)
+		g := sample.Remembering(n)
 		l, e := auto.Build(g)
 		if e != api.OK || len(l) < 1<<n {
 			t.Fatalf("%d: %d states with the error %d", n, len(l), e)
@@ -397,29 +368,16 @@ func TestTooMany(t *testing.T) {
 		literal(t, g, l, 1)
 	}
 	for n := 11; n <= 16; n++ {
-		if l, e := auto.Build(remembering(n)); len(l) != 0 || e != api.ErrMany {
+		if l, e := auto.Build(sample.Remembering(n)); len(l) != 0 || e != api.ErrMany {
 			t.Errorf("%d: %d states with the error %d", n, len(l), e)
 		}
 	}
 }
 
-// around returns a grammar of the greatest size in which each nonterminal begins with the next one and the last one with the
-// first, so that each closure has all rules in it.
-func around(right int) api.Gram {
-	g := sized(api.MaxTerms, api.MaxNons)
-	for i := range api.MaxRules {
-		k := i % api.MaxNons
-		list := append([]int{g.Start + (k+1)%api.MaxNons}, slices.Repeat([]int{1 + i%api.MaxTerms}, right)...)
-		list[len(list)-1] = 1 + (i*7+i/api.MaxNons)%api.MaxTerms
-		g.Rules = append(g.Rules, api.Rule{Left: g.Start + k, Right: list})
-	}
-	return g
-}
-
 // P1, P13.1, P13.2: grammars of the greatest size.
 func TestMost(t *testing.T) {
 	for right := 1; right < 4; right++ {
-		g := around(right)
+		g := sample.Around(right)
 		l, e := auto.Build(g)
 		if e != api.OK || len(l[0].Trans) != api.MaxNons || len(l) < api.MaxRules {
 			t.Fatalf("%d: %d states with the error %d, %d transitions", right, len(l), e, len(l[0].Trans))
@@ -430,19 +388,7 @@ func TestMost(t *testing.T) {
 
 // P1, P13.1: a grammar of the greatest size in which almost every state leads by every symbol to another one.
 func TestWide(t *testing.T) {
-	g := sized(api.MaxTerms, api.MaxNons)
-	for i := range api.MaxRules {
-		k := i % api.MaxNons
-		list := []int{1 + k, g.Start}
-		if i >= api.MaxNons {
-			list = slices.Repeat([]int{g.Start}, api.MaxRight)
-			list[0] = g.Start + (k+1)%api.MaxNons
-		}
-		if i >= 2*api.MaxNons {
-			list[1] = g.Start + (k+5)%api.MaxNons
-		}
-		g.Rules = append(g.Rules, api.Rule{Left: g.Start + k, Right: list})
-	}
+	g := sample.Wide()
 	l, e := auto.Build(g)
 	if e != api.OK || len(l) < api.MaxStates/2 {
 		t.Fatalf("%d states with the error %d", len(l), e)

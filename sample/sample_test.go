@@ -1,6 +1,7 @@
 package sample_test
 
 import (
+	"fmt"
 	"slices"
 	"strconv"
 	"strings"
@@ -110,5 +111,33 @@ func TestInvalid(t *testing.T) {
 	}
 	if counts[api.OK] != 0 || gram.Check(sample.Valid()) != api.OK {
 		t.Error("the valid grammar")
+	}
+}
+
+// The large grammars are valid and as large as they can be; what the automata of some of them are, the tests of layer 13 tell.
+func TestLarge(t *testing.T) {
+	for _, g := range []api.Gram{sample.Around(1), sample.Around(2), sample.Around(api.MaxRight - 1), sample.Wide()} {
+		if e := gram.Check(g); e != api.OK || len(g.Terms) != api.MaxTerms || len(g.Nons) != api.MaxNons || len(g.Rules) != api.MaxRules {
+			t.Errorf("%.200v: %d", g, e)
+		}
+	}
+	if g := sample.Around(2); len(g.Rules[0].Right) != 3 || gram.Non(g, g.Rules[0].Right[1]) {
+		t.Errorf("a rule of Around(2) is %v", g.Rules[0])
+	}
+	for n := 1; n <= 16; n++ {
+		if g := sample.Remembering(n); gram.Check(g) != api.OK || len(g.Terms) != n {
+			t.Errorf("Remembering(%d) is %.200v", n, g)
+		}
+	}
+	for n := 3; n <= api.MaxStates+200; n += 10 {
+		g, beginnings := sample.Sharp(n), map[string]int{}
+		for _, r := range g.Rules {
+			for i := range r.Right {
+				beginnings[fmt.Sprint(r.Right[:i+1])] = i
+			}
+		}
+		if gram.Check(g) != api.OK || len(beginnings) != n-2 {
+			t.Errorf("Sharp(%d) has %d beginnings", n, len(beginnings))
+		}
 	}
 }
