@@ -14,7 +14,7 @@ import (
 )
 
 // Short names: almost every test makes grammars.
-var grammar, sized = sample.Grammar, sample.Sized
+var grammar, sized, long = sample.Grammar, sample.Sized, sample.Doubling
 
 // numbers returns the symbols with these names.
 func numbers(g api.Gram, names string) []int {
@@ -192,19 +192,6 @@ func tooLong(t *testing.T, w *least.Words, s int) {
 			t.Errorf("Line(%v) has %d terminals, %t", l, len(got), ok)
 		}
 	}
-}
-
-// long returns a grammar with a nonterminal for the minimal word of n terminals B, for each power of two up to MaxWord, and
-// then nonterminals of these rules.
-func long(nons string, rules ...string) api.Gram {
-	all := []string{"b1 : B"}
-	names := "b1"
-	for n := 2; n <= api.MaxWord; n *= 2 {
-		half := " b" + strconv.Itoa(n/2)
-		names += " b" + strconv.Itoa(n)
-		all = append(all, "b"+strconv.Itoa(n)+" :"+half+half)
-	}
-	return grammar("A B C", names+" "+nons, "b1", slices.Concat(rules, all)...)
 }
 
 // P10.1: words of just MaxWord terminals and of more, and how those that are too long count against others.

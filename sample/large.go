@@ -2,6 +2,7 @@ package sample
 
 import (
 	"slices"
+	"strconv"
 
 	"conch/api"
 )
@@ -67,4 +68,18 @@ func Wide() api.Gram {
 		g.Rules = append(g.Rules, api.Rule{Left: g.Start + k, Right: list})
 	}
 	return g
+}
+
+// Doubling returns a grammar with a nonterminal for the minimal word of n terminals
+// B, for each power of two up to MaxWord, and then nonterminals of these rules, which
+// can have the terminals A, B and C. Start is the nonterminal for one B.
+func Doubling(nons string, rules ...string) api.Gram {
+	all := []string{"b1 : B"}
+	names := "b1"
+	for n := 2; n <= api.MaxWord; n *= 2 {
+		half := " b" + strconv.Itoa(n/2)
+		names += " b" + strconv.Itoa(n)
+		all = append(all, "b"+strconv.Itoa(n)+" :"+half+half)
+	}
+	return Grammar("A B C", names+" "+nons, "b1", slices.Concat(rules, all)...)
 }

@@ -141,3 +141,18 @@ func TestLarge(t *testing.T) {
 		}
 	}
 }
+
+// Doubling has one nonterminal for each power of two, each but the first one made of two of the one before, and what it is given.
+func TestDoubling(t *testing.T) {
+	g := sample.Doubling("s t", "s : b4096 A", "t : b1 C")
+	if gram.Check(g) != api.OK || len(g.Terms) != 3 || len(g.Nons) != 15 || len(g.Rules) != 15 || gram.Name(g, g.Start) != "b1" {
+		t.Fatalf("the grammar is %v", g)
+	}
+	for n, half := 2, g.Start; n <= api.MaxWord; n, half = 2*n, half+1 {
+		s := gram.Find(g, "b"+strconv.Itoa(n))
+		rules := gram.Of(g, s)
+		if s != half+1 || len(rules) != 1 || !slices.Equal(g.Rules[rules[0]].Right, []int{half, half}) {
+			t.Errorf("b%d is %d, with the rules %v", n, s, rules)
+		}
+	}
+}
