@@ -117,8 +117,8 @@ func agree(t *testing.T, g api.Gram) *route.Routes {
 	return r
 }
 
-// reads demands the text of state i, whose path is given, and its witnesses before the end of input, before each terminal and around
-// them.
+// reads demands the text of state i, whose path is given, and its witnesses before the end of input, before each terminal and before
+// numbers that are none.
 func reads(t *testing.T, g api.Gram, r *route.Routes, i int, words *least.Words, way []int) {
 	t.Helper()
 	want, there := joined(words, way)
@@ -129,7 +129,7 @@ func reads(t *testing.T, g api.Gram, r *route.Routes, i int, words *least.Words,
 	for term := -1; term <= gram.Top(g)+1; term++ {
 		got, ok := r.Witness(api.Clash{State: i, Term: term})
 		switch {
-		case !there || term < 0 || term > len(g.Terms):
+		case !there:
 			missing(t, got, ok, "Witness", i, term)
 		case term == 0:
 			if !ok || !slices.Equal(got, want) {

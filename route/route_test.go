@@ -246,23 +246,49 @@ func nowhere(t *testing.T, r *route.Routes, i int) {
 	}
 }
 
-// P16.1, P6: a conflict needs only a state and a terminal; before a number that is neither a terminal nor the end of input it has no
-// witness.
-func TestNoTerminal(t *testing.T) {
+// P16.1, P6: a conflict needs only a state and a terminal. A number that is neither a terminal nor the end of input stands behind the
+// text as it is: only a missing text leaves a conflict without a witness.
+func TestAnyTerminal(t *testing.T) {
 	g := grammar("A B", "s t", "s", "s : A t", "t : B")
 	r := of(t, g)
-	for i, text := range []string{"", "A", "A B", "A B", "A B"} {
+	for i, name := range []string{"", "A", "A B", "A B", "A B"} {
+		text := symbols(g, name)
 		for _, a := range []api.Act{{}, {K: api.ActShift, N: -1}, {K: -7, N: math.MaxInt}} {
-			for term, want := range []string{text, text + " A", text + " B"} {
-				got, ok := r.Witness(api.Clash{State: i, Term: term, A: a, B: a})
-				if !ok || names(g, got) != strings.TrimSpace(want) {
-					t.Errorf("the witness in state %d before %d is %q %t, want %q", i, term, names(g, got), ok, want)
+			for _, term := range append([]int{0, 1, 2, 3, 4, 5, -3}, extremes...) {
+				want := text
+				if term != 0 {
+					want = append(slices.Clone(text), term)
+				}
+				if got, ok := r.Witness(api.Clash{State: i, Term: term, A: a, B: a}); !ok || !slices.Equal(got, want) {
+					t.Errorf("the witness in state %d before %d is %v %t, want %v", i, term, got, ok, want)
 				}
 			}
-			for _, term := range append([]int{3, 4, 5, -3}, extremes...) {
-				got, ok := r.Witness(api.Clash{State: i, Term: term, A: a, B: a})
-				missing(t, got, ok, "Witness", i, term)
+		}
+	}
+}
+
+// P16.1, P6: grammars without terminals, and with terminals that no rule has, have witnesses before any number too.
+func TestTerminalOfNoRule(t *testing.T) {
+	for _, terms := range []string{"", "A", "A B"} {
+		g := grammar(terms, "s", "s", "s :")
+		r := of(t, g)
+		for i := range 2 {
+			for _, term := range append([]int{1, 2, 3, 4}, extremes...) {
+				if got, ok := r.Witness(api.Clash{State: i, Term: term}); !ok || !slices.Equal(got, []int{term}) {
+					t.Errorf("%v: the witness in state %d before %d is %v %t", g, i, term, got, ok)
+				}
 			}
+		}
+	}
+}
+
+// P16.1, P6: without a text there is no witness, whatever the terminal is.
+func TestWithoutText(t *testing.T) {
+	r := of(t, grammar("A", "s", "s", "s : s A"))
+	for _, term := range append([]int{0, 1, 2, 3}, extremes...) {
+		for i := 1; i <= r.Len(); i++ {
+			text, ok := r.Witness(api.Clash{State: i, Term: term})
+			missing(t, text, ok, "Witness", i, term)
 		}
 	}
 }
