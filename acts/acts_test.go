@@ -124,10 +124,8 @@ func literal(t *testing.T, g api.Gram, want api.Table) {
 }
 
 // Short names for the rows of literal tables.
-func shift(to int) api.Act          { return api.Act{K: api.ActShift, N: to} }
-func reduce(rule int) api.Act       { return api.Act{K: api.ActReduce, N: rule} }
-func accept() api.Act               { return api.Act{K: api.ActAccept} }
-func none() api.Act                 { return api.Act{} }
+var shift, reduce, accept, none = sample.Shift, sample.Reduce, sample.Accept, sample.None
+
 func acting(l ...api.Act) []api.Act { return l }
 
 // P15.1: the grammar of the chapters before, with all numbers of its table.

@@ -7,25 +7,12 @@ import (
 
 	"conch/acts"
 	"conch/api"
+	"conch/sample"
 )
-
-// handmade returns a valid table that no grammar has: three states, two terminals, two nonterminals, and each kind of action.
-func handmade() api.Table {
-	return api.Table{
-		Rules: []api.Rule{{Left: 3, Right: []int{1}}, {Left: 4}, {Left: 3, Right: []int{4, 2}}, {Right: []int{3}}},
-		Terms: 2, Nons: 2,
-		Acts: [][]api.Act{
-			acting(shift(1), reduce(0), none()),
-			acting(accept(), reduce(1), shift(2)),
-			acting(none(), shift(0), reduce(2)),
-		},
-		Goto: [][]int{{1, -1}, {2, 0}, {-1, -1}},
-	}
-}
 
 // with returns the table after a change.
 func with(change func(x *api.Table)) api.Table {
-	x := handmade()
+	x := sample.Table()
 	change(&x)
 	return x
 }
@@ -115,7 +102,7 @@ func columns(x api.Table) []uint64 {
 
 // P15.2: a valid table, and what makes a difference by one.
 func TestRight(t *testing.T) {
-	verdict(t, handmade(), true)
+	verdict(t, sample.Table(), true)
 	verdict(t, api.Table{}, false)
 	// No rule, no state, and just one of each.
 	verdict(t, with(func(x *api.Table) { x.Rules = nil }), false)
@@ -253,7 +240,7 @@ func asked(t *testing.T, x api.Table) {
 
 // P15.2: Act, with states and terminals that exist, and those that don't.
 func TestAct(t *testing.T) {
-	x := handmade()
+	x := sample.Table()
 	for i, row := range x.Acts {
 		for term, a := range row {
 			if got := acts.Act(x, i, term); got != a {
@@ -285,7 +272,7 @@ func TestAct(t *testing.T) {
 
 // P15.2: Goto, with states and symbols that exist, and those that don't.
 func TestGoto(t *testing.T) {
-	x := handmade()
+	x := sample.Table()
 	for i, row := range x.Goto {
 		for k, to := range row {
 			if got := acts.Goto(x, i, 3+k); got != to {
@@ -330,47 +317,10 @@ func TestExtremes(t *testing.T) {
 	}
 }
 
-// strewn returns a small number by a linear congruential sequence, which goes on.
-func strewn(state *uint32, n int) int {
-	*state = *state*1664525 + 1013904223
-	return int(*state>>8) % n
-}
-
-// loose returns a table that is nearly valid, or not at all.
-func loose(state *uint32) api.Table {
-	x := api.Table{Terms: strewn(state, 3), Nons: strewn(state, 3)}
-	n := 1 + strewn(state, 3)
-	// off is 0 almost always.
-	off := func() int { return strewn(state, 12) / 11 * (strewn(state, 3) - 1) }
-	x.Rules = make([]api.Rule, 1+strewn(state, 3))
-	for i := range x.Rules {
-		x.Rules[i].Left = x.Terms + 1 + strewn(state, x.Nons+1) + off()
-	}
-	for range max(n+off(), 0) {
-		row := make([]api.Act, max(x.Terms+1+off(), 0))
-		for k := range row {
-			row[k] = []api.Act{none(), accept(), shift(strewn(state, n)), reduce(strewn(state, len(x.Rules)))}[strewn(state, 4)]
-			row[k].N, row[k].K = row[k].N+off(), row[k].K+off()
-		}
-		x.Acts = append(x.Acts, row)
-	}
-	for range max(n+off(), 0) {
-		row := make([]int, max(x.Nons+off(), 0))
-		for k := range row {
-			row[k] = strewn(state, n+1) - 1 + off()
-		}
-		x.Goto = append(x.Goto, row)
-	}
-	x.Terms, x.Nons = x.Terms+off(), x.Nons+off()
-	return x
-}
-
 // P1, P15.2: strewn tables, valid ones and others.
 func TestLooseTables(t *testing.T) {
-	var state uint32
 	counts := map[bool]int{}
-	for range 20000 {
-		x := loose(&state)
+	for x := range sample.Loose(20000) {
 		before := text(x)
 		asked(t, x)
 		verdict(t, x, right(x))

@@ -1,4 +1,5 @@
-// Package sample makes grammars for the tests of the layers. No layer uses it.
+// Package sample makes grammars and tables for the tests of the layers. No layer uses
+// it.
 package sample
 
 import (

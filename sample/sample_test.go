@@ -7,6 +7,7 @@ import (
 	"strings"
 	"testing"
 
+	"conch/acts"
 	"conch/api"
 	"conch/gram"
 	"conch/sample"
@@ -154,5 +155,33 @@ func TestDoubling(t *testing.T) {
 		if s != half+1 || len(rules) != 1 || !slices.Equal(g.Rules[rules[0]].Right, []int{half, half}) {
 			t.Errorf("b%d is %d, with the rules %v", n, s, rules)
 		}
+	}
+}
+
+// The table is valid, and has each kind of action; loose tables are valid or not, and the same ones each time.
+func TestTables(t *testing.T) {
+	kinds := map[int]bool{}
+	for _, row := range sample.Table().Acts {
+		for _, a := range row {
+			kinds[a.K] = true
+		}
+	}
+	if !acts.Right(sample.Table()) || len(kinds) != 4 {
+		t.Errorf("the table is %v", sample.Table())
+	}
+	var again []string
+	counts := map[bool]int{}
+	for x := range sample.Loose(1000) {
+		again = append(again, fmt.Sprint(x))
+		counts[acts.Right(x)]++
+	}
+	if counts[true] < 100 || counts[false] < 100 {
+		t.Errorf("%v", counts)
+	}
+	for x := range sample.Loose(1000) {
+		if fmt.Sprint(x) != again[0] {
+			t.Fatalf("%v was %s", x, again[0])
+		}
+		again = again[1:]
 	}
 }
