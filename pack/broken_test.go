@@ -7,23 +7,12 @@ import (
 
 	"conch/api"
 	"conch/pack"
+	"conch/sample"
 )
 
-// whole returns the packed form of a table with four states, of which two have the same actions and three the same goto entries.
-func whole() api.Packed {
-	return api.Packed{
-		Rules: []api.Rule{{Left: 3}, {Left: 3, Right: []int{1, 2}}, {Right: []int{3}}},
-		Terms: 2, Nons: 1,
-		Row:  []int{0, 1, 0, 2},
-		Rows: [][]uint16{{0, 16385, 16387}, {49152, 16385, 16387}, {32769, 32768, 0}},
-		Gow:  []int{0, 0, 1, 0},
-		Gows: [][]uint16{{0}, {4}},
-	}
-}
-
-// broken returns it after a change.
+// broken returns the packed table of the samples after a change.
 func broken(change func(p *api.Packed)) api.Packed {
-	p := whole()
+	p := sample.Packed()
 	change(&p)
 	return p
 }
@@ -62,13 +51,13 @@ func alike(t *testing.T, p, other api.Packed) {
 
 // P17.1: what is right, and its table.
 func TestWhole(t *testing.T) {
-	right(t, whole())
+	right(t, sample.Packed())
 	literal(t, api.Table{
 		Rules: []api.Rule{{Left: 3}, {Left: 3, Right: []int{1, 2}}, {Right: []int{3}}},
 		Terms: 2, Nons: 1,
 		Acts: [][]api.Act{{none(), shift(1), shift(3)}, {accept(), shift(1), shift(3)}, {none(), shift(1), shift(3)}, {reduce(1), reduce(0), none()}},
 		Goto: [][]int{{-1}, {-1}, {3}, {-1}},
-	}, whole())
+	}, sample.Packed())
 	// One more state, with a row of its own or with the first one, and one rule more or less.
 	right(t, broken(func(p *api.Packed) { p.Row, p.Gow = append(p.Row, 0), append(p.Gow, 1) }))
 	right(t, broken(func(p *api.Packed) {
@@ -99,14 +88,14 @@ func TestNoRow(t *testing.T) {
 
 // P17.1, P17.2: rows that no state has, and equal rows, whether states have both of them or not.
 func TestRowTooMany(t *testing.T) {
-	alike(t, broken(func(p *api.Packed) { p.Rows = append(p.Rows, []uint16{0, 0, 0}) }), whole())
-	alike(t, broken(func(p *api.Packed) { p.Rows = append(p.Rows, p.Rows[0]) }), whole())
-	alike(t, broken(func(p *api.Packed) { p.Gows = append(p.Gows, []uint16{1}) }), whole())
-	alike(t, broken(func(p *api.Packed) { p.Gows = append(p.Gows, p.Gows[1]) }), whole())
-	alike(t, broken(func(p *api.Packed) { p.Row, p.Rows = []int{0, 1, 2, 3}, slices.Insert(p.Rows, 2, p.Rows[0]) }), whole())
-	alike(t, broken(func(p *api.Packed) { p.Row, p.Rows = []int{0, 2, 0, 3}, slices.Insert(p.Rows, 1, p.Rows[0]) }), whole())
-	alike(t, broken(func(p *api.Packed) { p.Gow, p.Gows = []int{0, 0, 1, 2}, append(p.Gows, p.Gows[0]) }), whole())
-	alike(t, broken(func(p *api.Packed) { p.Gow, p.Gows = []int{0, 1, 2, 0}, [][]uint16{{0}, {0}, {4}} }), whole())
+	alike(t, broken(func(p *api.Packed) { p.Rows = append(p.Rows, []uint16{0, 0, 0}) }), sample.Packed())
+	alike(t, broken(func(p *api.Packed) { p.Rows = append(p.Rows, p.Rows[0]) }), sample.Packed())
+	alike(t, broken(func(p *api.Packed) { p.Gows = append(p.Gows, []uint16{1}) }), sample.Packed())
+	alike(t, broken(func(p *api.Packed) { p.Gows = append(p.Gows, p.Gows[1]) }), sample.Packed())
+	alike(t, broken(func(p *api.Packed) { p.Row, p.Rows = []int{0, 1, 2, 3}, slices.Insert(p.Rows, 2, p.Rows[0]) }), sample.Packed())
+	alike(t, broken(func(p *api.Packed) { p.Row, p.Rows = []int{0, 2, 0, 3}, slices.Insert(p.Rows, 1, p.Rows[0]) }), sample.Packed())
+	alike(t, broken(func(p *api.Packed) { p.Gow, p.Gows = []int{0, 0, 1, 2}, append(p.Gows, p.Gows[0]) }), sample.Packed())
+	alike(t, broken(func(p *api.Packed) { p.Gow, p.Gows = []int{0, 1, 2, 0}, [][]uint16{{0}, {0}, {4}} }), sample.Packed())
 	// A state loses the only row that it alone has.
 	wrong(t, broken(func(p *api.Packed) { p.Row[3] = 0 }))
 	wrong(t, broken(func(p *api.Packed) { p.Row[1] = 0 }))
@@ -120,9 +109,9 @@ func TestRowTooMany(t *testing.T) {
 
 // P17.1: rows in another order than that of their first occurrence.
 func TestOtherOrder(t *testing.T) {
-	alike(t, broken(func(p *api.Packed) { p.Row, p.Rows = []int{1, 0, 1, 2}, [][]uint16{p.Rows[1], p.Rows[0], p.Rows[2]} }), whole())
-	alike(t, broken(func(p *api.Packed) { p.Row, p.Rows = []int{0, 2, 0, 1}, [][]uint16{p.Rows[0], p.Rows[2], p.Rows[1]} }), whole())
-	alike(t, broken(func(p *api.Packed) { p.Gow, p.Gows = []int{1, 1, 0, 1}, [][]uint16{p.Gows[1], p.Gows[0]} }), whole())
+	alike(t, broken(func(p *api.Packed) { p.Row, p.Rows = []int{1, 0, 1, 2}, [][]uint16{p.Rows[1], p.Rows[0], p.Rows[2]} }), sample.Packed())
+	alike(t, broken(func(p *api.Packed) { p.Row, p.Rows = []int{0, 2, 0, 1}, [][]uint16{p.Rows[0], p.Rows[2], p.Rows[1]} }), sample.Packed())
+	alike(t, broken(func(p *api.Packed) { p.Gow, p.Gows = []int{1, 1, 0, 1}, [][]uint16{p.Gows[1], p.Gows[0]} }), sample.Packed())
 	wrong(t, broken(func(p *api.Packed) { p.Row = []int{2, 1, 0, 0} }))
 	wrong(t, broken(func(p *api.Packed) { p.Row = []int{0, 2, 1, 0} }))
 	wrong(t, broken(func(p *api.Packed) { p.Gow = []int{1, 0, 0, 0} }))
@@ -135,7 +124,7 @@ func TestOtherOrder(t *testing.T) {
 // P17.1: rows that are too short or too long, and numbers of symbols that do not fit.
 func TestOtherLength(t *testing.T) {
 	for i := range 3 {
-		alike(t, broken(func(p *api.Packed) { p.Rows[i] = append(p.Rows[i], 16384) }), whole())
+		alike(t, broken(func(p *api.Packed) { p.Rows[i] = append(p.Rows[i], 16384) }), sample.Packed())
 		p := broken(func(p *api.Packed) { p.Rows[i] = p.Rows[i][:2] })
 		wrong(t, p)
 		if a := pack.Act(p, []int{0, 1, 3}[i], 2); a != none() {
@@ -144,7 +133,7 @@ func TestOtherLength(t *testing.T) {
 		wrong(t, broken(func(p *api.Packed) { p.Rows[i] = nil }))
 	}
 	for i := range 2 {
-		alike(t, broken(func(p *api.Packed) { p.Gows[i] = append(p.Gows[i], 1) }), whole())
+		alike(t, broken(func(p *api.Packed) { p.Gows[i] = append(p.Gows[i], 1) }), sample.Packed())
 		p := broken(func(p *api.Packed) { p.Gows[i] = []uint16{} })
 		wrong(t, p)
 		if to := pack.Goto(p, []int{0, 2}[i], 3); to != -1 {
@@ -272,49 +261,10 @@ func TestHuge(t *testing.T) {
 	}
 }
 
-// strewer makes numbers by a linear congruential sequence.
-type strewer uint32
-
-// next returns a number below n.
-func (s *strewer) next(n int) int {
-	*s = *s*1664525 + 1013904223
-	return int(*s>>8) % n
-}
-
-// change changes one thing in a packed table: to a number near by, an extreme one, or any code.
-func (s *strewer) change(p *api.Packed) {
-	near := numbers[s.next(len(numbers))]
-	code := []uint16{0, 1, 2, 3, 4, 5, 16383, 16384, 16385, 16387, 16388, 32767, 32768, 32769, 32770, 49151, 49152, 49153, 65535, uint16(s.next(1 << 16))}[s.next(20)]
-	row, gow := s.next(3), s.next(2)
-	switch s.next(12) {
-	case 0:
-		p.Row[s.next(len(p.Row))] = near
-	case 1:
-		p.Gow[s.next(len(p.Gow))] = near
-	case 2, 3, 4, 5:
-		p.Rows[row][s.next(len(p.Rows[row]))] = code
-	case 6, 7:
-		p.Gows[gow][s.next(len(p.Gows[gow]))] = code
-	case 8:
-		p.Rules[s.next(len(p.Rules))].Left = near
-	case 9:
-		p.Terms = near
-	case 10:
-		p.Nons = near
-	case 11:
-		p.Row, p.Gow = append(p.Row, s.next(3)), append(p.Gow, s.next(2))
-	}
-}
-
 // P1, P17.1: packed tables after some changes, which are right or not.
 func TestChanges(t *testing.T) {
-	var s strewer
 	counts := map[bool]int{}
-	for range 20000 {
-		p := whole()
-		for range 1 + s.next(3) {
-			s.change(&p)
-		}
+	for p := range sample.Changed(20000) {
 		counts[asked(t, p)]++
 	}
 	if counts[true] < 1000 || counts[false] < 10000 {

@@ -2,6 +2,7 @@ package sample_test
 
 import (
 	"fmt"
+	"iter"
 	"slices"
 	"strconv"
 	"strings"
@@ -10,6 +11,7 @@ import (
 	"conch/acts"
 	"conch/api"
 	"conch/gram"
+	"conch/pack"
 	"conch/sample"
 )
 
@@ -169,19 +171,37 @@ func TestTables(t *testing.T) {
 	if !acts.Right(sample.Table()) || len(kinds) != 4 {
 		t.Errorf("the table is %v", sample.Table())
 	}
-	var again []string
-	counts := map[bool]int{}
-	for x := range sample.Loose(1000) {
-		again = append(again, fmt.Sprint(x))
-		counts[acts.Right(x)]++
-	}
-	if counts[true] < 100 || counts[false] < 100 {
+	if counts := twice(t, sample.Loose(1000), acts.Right); counts[true] < 100 || counts[false] < 100 {
 		t.Errorf("%v", counts)
 	}
-	for x := range sample.Loose(1000) {
+}
+
+// twice demands of a sequence that it yields the same each time, and returns how many of what it yields are right and how many are not.
+func twice[E any](t *testing.T, list iter.Seq[E], right func(E) bool) map[bool]int {
+	t.Helper()
+	var again []string
+	counts := map[bool]int{}
+	for x := range list {
+		again = append(again, fmt.Sprint(x))
+		counts[right(x)]++
+	}
+	for x := range list {
 		if fmt.Sprint(x) != again[0] {
 			t.Fatalf("%v was %s", x, again[0])
 		}
 		again = again[1:]
+	}
+	return counts
+}
+
+// Changed yields packed tables that are valid or not, the same ones each time, and leaves that of Packed as it is.
+func TestPacked(t *testing.T) {
+	if !pack.Right(sample.Packed()) {
+		t.Errorf("the packed table is %v", sample.Packed())
+	}
+	before := fmt.Sprint(sample.Packed())
+	counts := twice(t, sample.Changed(1000), pack.Right)
+	if counts[true] < 50 || counts[false] < 500 || fmt.Sprint(sample.Packed()) != before {
+		t.Errorf("%v", counts)
 	}
 }

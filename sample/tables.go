@@ -2,6 +2,7 @@ package sample
 
 import (
 	"iter"
+	"math"
 
 	"conch/api"
 )
@@ -70,4 +71,62 @@ func (s *strewer) table() api.Table {
 // off returns 0 almost always, and otherwise what makes a number wrong by one.
 func (s *strewer) off() int {
 	return s.next(12) / 11 * (s.next(3) - 1)
+}
+
+// Packed returns the packed form of a table with four states, of which two have the
+// same actions and three the same goto entries.
+func Packed() api.Packed {
+	return api.Packed{
+		Rules: []api.Rule{{Left: 3}, {Left: 3, Right: []int{1, 2}}, {Right: []int{3}}},
+		Terms: 2, Nons: 1,
+		Row:  []int{0, 1, 0, 2},
+		Rows: [][]uint16{{0, 16385, 16387}, {49152, 16385, 16387}, {32769, 32768, 0}},
+		Gow:  []int{0, 0, 1, 0},
+		Gows: [][]uint16{{0}, {4}},
+	}
+}
+
+// Changed yields that many packed tables, the same ones each time: each is that of
+// Packed after some changes, valid or not.
+func Changed(count int) iter.Seq[api.Packed] {
+	return func(yield func(api.Packed) bool) {
+		var s strewer
+		for range count {
+			p := Packed()
+			for range 1 + s.next(3) {
+				s.change(&p)
+			}
+			if !yield(p) {
+				return
+			}
+		}
+	}
+}
+
+// change changes one thing in the packed table: to a number near by, an extreme one,
+// or any code.
+func (s *strewer) change(p *api.Packed) {
+	numbers := []int{math.MinInt, math.MinInt + 1, -5, -2, -1, 0, 1, 2, 3, 4, 5, 6, 7, math.MaxInt - 1, math.MaxInt}
+	near := numbers[s.next(len(numbers))]
+	codes := []uint16{0, 1, 2, 3, 4, 5, 16383, 16384, 16385, 16387, 16388, 32767, 32768, 32769, 32770, 49151, 49152, 49153, 65535, uint16(s.next(1 << 16))}
+	code := codes[s.next(len(codes))]
+	row, gow := s.next(3), s.next(2)
+	switch s.next(12) {
+	case 0:
+		p.Row[s.next(len(p.Row))] = near
+	case 1:
+		p.Gow[s.next(len(p.Gow))] = near
+	case 2, 3, 4, 5:
+		p.Rows[row][s.next(len(p.Rows[row]))] = code
+	case 6, 7:
+		p.Gows[gow][s.next(len(p.Gows[gow]))] = code
+	case 8:
+		p.Rules[s.next(len(p.Rules))].Left = near
+	case 9:
+		p.Terms = near
+	case 10:
+		p.Nons = near
+	case 11:
+		p.Row, p.Gow = append(p.Row, s.next(3)), append(p.Gow, s.next(2))
+	}
 }
